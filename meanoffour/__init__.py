@@ -1,0 +1,1 @@
+"""The mean of four, rounded one way."""
